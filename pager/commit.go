@@ -17,10 +17,12 @@ func (p *Pager) Commit() api.Errno {
 	if e := p.ready(); e != api.OK {
 		return e
 	}
-	pages, records := p.staged()
-	if len(pages) == 0 {
+	if !p.isStaged() {
+		// A word that was changed back, ahead of this Commit, is nothing to the next one.
+		p.reworded = false
 		return api.OK
 	}
+	pages, records := p.staged()
 	frames := wal.Frames(records...)
 	if frames > p.log.Slots() {
 		return api.ErrFull
@@ -38,11 +40,16 @@ func (p *Pager) Commit() api.Errno {
 	return api.OK
 }
 
+// isStaged tells whether anything is staged. A word that was changed back is not, though with it the page 0 goes along with all that is.
+func (p *Pager) isStaged() bool {
+	return p.moved || p.now.words != p.was.words || len(p.pool.staged) > 0
+}
+
 // staged is the pages of which a commit would consist, rising, each with its record.
 func (p *Pager) staged() ([]int, [][]byte) {
 	var pages []int
 	var records [][]byte
-	if p.moved || p.now.words != p.was.words {
+	if p.moved || p.reworded {
 		pages = append(pages, 0)
 		records = append(records, recordOf(0, p.now.bytes(p.layout.pages)))
 	}
@@ -68,7 +75,7 @@ func (p *Pager) settleStaged(pages []int, at []spot) {
 		}
 	}
 	p.was = p.now
-	p.moved = false
+	p.moved, p.reworded = false, false
 	p.pool.settle()
 }
 
@@ -78,7 +85,7 @@ func (p *Pager) Abort() api.Errno {
 		return e
 	}
 	p.now = p.was
-	p.moved = false
+	p.moved, p.reworded = false, false
 	p.pool.forget()
 	return api.OK
 }

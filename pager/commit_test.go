@@ -77,22 +77,33 @@ func TestCommitOfNothing(t *testing.T) {
 	}
 }
 
-// P7.3: where a page was made and freed, the commit is the page 0, as it was; a word that was set back does not bring it there.
+// wordBack changes a word, and changes it back.
+func wordBack(p *Pager) { p.SetWord(0, 1); p.SetWord(0, 0) }
+
+// P7.3: where a page was made and freed, or a word was changed and changed back, the page 0 stands ahead of the pages, as it was; a word alone that was changed back makes no commit.
 func TestCommitOfPage0(t *testing.T) {
 	same := record(0, page0(12, [4]int64{}, 1, 2))
 	for what, c := range map[string]struct {
 		do      func(p *Pager)
 		records [][]byte
 	}{
-		"made and freed":          {func(p *Pager) { p.Alloc(); p.Free(3) }, list(same)},
-		"made, freed, and set":    {func(p *Pager) { p.Alloc(); p.Free(3); p.Set(1, nil) }, list(same, record(1, nil))},
-		"freed and made":          {func(p *Pager) { p.Free(1); p.Alloc() }, list(same, record(1, nil))},
-		"set alone":               {func(p *Pager) { p.Set(2, []byte("b")) }, list(record(2, []byte("b")))},
-		"set, and a word back":    {func(p *Pager) { p.Set(2, nil); p.SetWord(0, 1); p.SetWord(0, 0) }, list(record(2, nil))},
-		"set, and freed":          {func(p *Pager) { p.Set(2, nil); p.Free(2) }, list(record(0, page0(12, [4]int64{}, 1)))},
-		"a word":                  {func(p *Pager) { p.SetWord(0, 1) }, list(record(0, page0(12, [4]int64{1}, 1, 2)))},
-		"made, behind an abort":   {func(p *Pager) { p.Alloc(); p.Abort(); p.Set(1, nil) }, list(record(1, nil))},
-		"a word, behind an abort": {func(p *Pager) { p.SetWord(0, 1); p.Abort(); p.Set(1, nil) }, list(record(1, nil))},
+		"made and freed":              {func(p *Pager) { p.Alloc(); p.Free(3) }, list(same)},
+		"made, freed, and set":        {func(p *Pager) { p.Alloc(); p.Free(3); p.Set(1, nil) }, list(same, record(1, nil))},
+		"freed and made":              {func(p *Pager) { p.Free(1); p.Alloc() }, list(same, record(1, nil))},
+		"set alone":                   {func(p *Pager) { p.Set(2, []byte("b")) }, list(record(2, []byte("b")))},
+		"set, and a word back":        {func(p *Pager) { p.Set(2, nil); wordBack(p) }, list(same, record(2, nil))},
+		"a word back, and set":        {func(p *Pager) { wordBack(p); p.Set(2, nil); p.Set(1, nil) }, list(same, record(1, nil), record(2, nil))},
+		"a word back, in between":     {func(p *Pager) { p.SetWord(3, -1); p.Set(1, nil); p.SetWord(3, 0) }, list(same, record(1, nil))},
+		"a word back, made and freed": {func(p *Pager) { wordBack(p); p.Alloc(); p.Free(3) }, list(same)},
+		"set, and a word as it was":   {func(p *Pager) { p.Set(2, nil); p.SetWord(0, 0); p.SetWord(3, 0) }, list(record(2, nil))},
+		"set, and no such word":       {func(p *Pager) { p.Set(2, nil); p.SetWord(4, 1); p.SetWord(-1, 1) }, list(record(2, nil))},
+		"set, and freed":              {func(p *Pager) { p.Set(2, nil); p.Free(2) }, list(record(0, page0(12, [4]int64{}, 1)))},
+		"a word":                      {func(p *Pager) { p.SetWord(0, 1) }, list(record(0, page0(12, [4]int64{1}, 1, 2)))},
+		"a word, and another back":    {func(p *Pager) { p.SetWord(1, 1); wordBack(p) }, list(record(0, page0(12, [4]int64{0, 1}, 1, 2)))},
+		"made, behind an abort":       {func(p *Pager) { p.Alloc(); p.Abort(); p.Set(1, nil) }, list(record(1, nil))},
+		"a word, behind an abort":     {func(p *Pager) { p.SetWord(0, 1); p.Abort(); p.Set(1, nil) }, list(record(1, nil))},
+		"a word back, and an abort":   {func(p *Pager) { wordBack(p); p.Abort(); p.Set(1, nil) }, list(record(1, nil))},
+		"a word back, and a commit":   {func(p *Pager) { wordBack(p); p.Commit(); p.Set(1, nil) }, list(record(1, nil))},
 	} {
 		d, p := settled(t, 20, 12, "a", "b")
 		c.do(p)
@@ -102,6 +113,36 @@ func TestCommitOfPage0(t *testing.T) {
 		wantCounts(t, what, p, 12, p.Left(), 0, false)
 		wantReopened(t, what, d, w)
 	}
+}
+
+// P7.3: behind a commit in which a word changed, or was changed back, no word has changed: the next one is without the page 0; a Checkpoint between is no Commit.
+func TestCommitBehindWords(t *testing.T) {
+	d, p := settled(t, 20, 12, "a", "b")
+	same, one := record(0, page0(12, [4]int64{}, 1, 2)), record(0, page0(12, [4]int64{1}, 1, 2))
+	var commits [][][]byte
+	commit := func(what string, records ...[]byte) {
+		t.Helper()
+		want(t, what, p.Commit(), api.OK)
+		commits = append(commits, records)
+		wantLogged(t, what, d, 3, commits...)
+	}
+	wordBack(p)
+	set(t, p, 1, []byte("c"))
+	commit("a word back", same, record(1, []byte("c")))
+	set(t, p, 1, []byte("d"))
+	commit("behind a word back", record(1, []byte("d")))
+	want(t, "SetWord", p.SetWord(0, 1), api.OK)
+	commit("a word", one)
+	want(t, "SetWord", p.SetWord(0, 1), api.OK)
+	set(t, p, 1, []byte("e"))
+	commit("a word as it was committed", record(1, []byte("e")))
+	want(t, "SetWord", p.SetWord(0, 0), api.OK)
+	want(t, "SetWord", p.SetWord(0, 1), api.OK)
+	want(t, "Checkpoint", p.Checkpoint(), api.OK)
+	set(t, p, 2, []byte("f"))
+	want(t, "Commit", p.Commit(), api.OK)
+	wantLogged(t, "behind a Checkpoint", d, 4, list(one, record(2, []byte("f"))))
+	wantReopened(t, "words", d, view{texts("e", "f").pages, [4]int64{1}})
 }
 
 // fits is a length of the page 1's bytes with which a commit of it takes just so many frames; one more takes one frame more.
@@ -134,6 +175,14 @@ func TestCommitFull(t *testing.T) {
 			want(t, "a word more", p.Commit(), api.ErrFull)
 			wantSame(t, "refused", d, before)
 			want(t, "SetWord", p.SetWord(0, 0), api.OK)
+			for range 2 {
+				want(t, "a word back", p.Commit(), api.ErrFull)
+				wantCounts(t, "a word back", p, 4, 2, 1, false)
+				wantGet(t, p, 1, string(some(fits(slots), 1)), api.OK)
+			}
+			wantSame(t, "refused", d, before)
+			want(t, "Abort", p.Abort(), api.OK)
+			set(t, p, 1, some(fits(slots), 1))
 			want(t, "just as many", p.Commit(), api.OK)
 			wantCounts(t, "taken", p, 4, 2, 0, false)
 			wantReopened(t, "taken", d, texts(string(some(fits(slots), 1))))

@@ -9,6 +9,7 @@ import (
 
 	"ramble/api"
 	"ramble/disk"
+	"ramble/wal"
 )
 
 // model is pages as a plain value: no disk, no log, no pool but its size.
@@ -16,7 +17,7 @@ type model struct {
 	slots, pages, pool int
 	was, now           view
 	staged             map[int]bool
-	moved              bool
+	moved, reworded    bool
 }
 
 func newModel(slots, pages, pool int) *model {
@@ -71,37 +72,39 @@ func (m *model) setWord(i int, n int64) api.Errno {
 	if i < 0 || i > 3 {
 		return api.ErrArg
 	}
+	m.reworded = m.reworded || m.now.words[i] != n
 	m.now.words[i] = n
 	return api.OK
 }
 
 func (m *model) abort() api.Errno {
-	m.now, m.staged, m.moved = m.was.copy(), map[int]bool{}, false
+	m.now = m.was.copy()
+	m.settle()
 	return api.OK
 }
 
-// frames is how many frames a commit takes; 0, if nothing is staged.
-func (m *model) frames() int {
+// records is what a commit consists of; none, if nothing is staged.
+func (m *model) records() [][]byte {
+	if !m.moved && m.now.words == m.was.words && len(m.staged) == 0 {
+		return nil
+	}
 	var records [][]byte
-	if m.moved || m.now.words != m.was.words {
+	if m.moved || m.reworded {
 		records = append(records, record(0, page0(m.pages, m.now.words, slices.Collect(maps.Keys(m.now.pages))...)))
 	}
-	for page := range m.staged {
+	for _, page := range slices.Sorted(maps.Keys(m.staged)) {
 		records = append(records, record(page, []byte(m.now.pages[page])))
 	}
-	if len(records) == 0 {
-		return 0
-	}
-	return (len(laid(records...)) + 111) / 112
+	return records
 }
 
 // settle is what comes of a commit that stays.
 func (m *model) settle() {
-	m.was, m.staged, m.moved = m.now.copy(), map[int]bool{}, false
+	m.was, m.staged, m.moved, m.reworded = m.now.copy(), map[int]bool{}, false, false
 }
 
 func (m *model) commit() api.Errno {
-	if m.frames() > m.slots {
+	if (len(laid(m.records()...))+111)/112 > m.slots {
 		return api.ErrFull
 	}
 	m.settle()
@@ -143,6 +146,9 @@ func (b both) change() string {
 		return fmt.Sprint("Free ", page, e)
 	case 3:
 		i, n := b.r.Intn(6)-1, int64(b.r.Intn(3)-1)<<b.r.Intn(60)
+		if i >= 0 && i < 4 && b.r.Intn(3) > 0 {
+			n = b.m.was.words[i]
+		}
 		e := b.p.SetWord(i, n)
 		b.same("SetWord", fmt.Sprint(i, e), fmt.Sprint(i, b.m.setWord(i, n)))
 		return fmt.Sprint("SetWord ", i, n, e)
@@ -187,6 +193,21 @@ func (b both) ask() string {
 	return fmt.Sprint("Get ", page, len(w), e, b.p.Held())
 }
 
+// commitLogged commits both, without a crash, and holds what the log got.
+func (b both) commitLogged() {
+	b.t.Helper()
+	records := b.m.records()
+	_, _, ahead, _ := wal.Open(b.d)
+	e := b.p.Commit()
+	b.same("Commit", fmt.Sprint(e), fmt.Sprint(b.m.commit()))
+	_, _, behind, _ := wal.Open(b.d)
+	if e != api.OK || records == nil {
+		b.same("a commit that is none", fmt.Sprintf("%q", behind), fmt.Sprintf("%q", ahead))
+		return
+	}
+	b.same("what was committed", fmt.Sprintf("%q", behind[len(behind)-1]), fmt.Sprintf("%q", records))
+}
+
 // P7.2 to P7.4, P7.7, R4: long ways of pages, without crashes, held against the model; the same calls again answer the same.
 func TestLongWays(t *testing.T) {
 	run := func(seed int64) string {
@@ -198,7 +219,7 @@ func TestLongWays(t *testing.T) {
 		for range 400 {
 			switch r.Intn(12) {
 			case 0, 1:
-				b.same("Commit", fmt.Sprint(b.p.Commit()), fmt.Sprint(b.m.commit()))
+				b.commitLogged()
 				wantFlushed(t, "Commit", d)
 			case 2:
 				want(t, "Checkpoint", b.p.Checkpoint(), api.OK)
