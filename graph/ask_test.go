@@ -348,3 +348,29 @@ func spoilProps(l []api.Prop) {
 		l[i] = p("spoilt", value.Int(77))
 	}
 }
+
+// P10.2, P10.3: an element is a kind and an id; what else stands in the value is not asked.
+func TestElementByKindAndId(t *testing.T) {
+	for _, elem := range []api.Value{
+		{Kind: api.VVertex, N: 1, S: "x"}, {Kind: api.VVertex, N: 1, L: []api.Value{{}}},
+		{Kind: api.VEdge, N: 3, S: "x"}, {Kind: api.VEdge, N: 3, L: []api.Value{value.Int(1)}},
+	} {
+		plain := api.Value{Kind: elem.Kind, N: elem.N}
+		want, _ := Label(sample(), plain)
+		wantAsked(t, sample(), elem, true, want, Props(sample(), plain))
+		g, e := set(t, sample(), elem, "a", value.Int(1))
+		wantErr(t, "Set", e, api.OK)
+		h, _ := Set(sample(), plain, "a", value.Int(1))
+		wantGraph(t, "Set", g, h)
+		g, is, e := unset(t, h, elem, "a")
+		wantErr(t, "Unset", e, api.OK)
+		wantGraph(t, "Unset", g, sample())
+		g, e = drop(t, sample(), elem)
+		wantErr(t, "Drop", e, api.OK)
+		h, _ = Drop(sample(), plain)
+		wantGraph(t, "Drop", g, h)
+		if !is {
+			t.Error("Unset did not find the property")
+		}
+	}
+}
