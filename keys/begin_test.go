@@ -1,6 +1,8 @@
 package keys
 
 import (
+	"bytes"
+	"fmt"
 	"math"
 	"testing"
 
@@ -20,19 +22,56 @@ func TestKeyAsWritten(t *testing.T) {
 	}
 }
 
-// P11.2: what is no element has no key; an id that is none stands as nothing; an element is its kind and its id.
+// P11.2: what is no element has no key: values of other kinds, and those of its kinds that may not be.
 func TestKeyOfOthers(t *testing.T) {
-	for _, x := range append(may(), mayNot()...) {
+	for _, x := range may() {
 		if x.Kind != api.VVertex && x.Kind != api.VEdge {
 			wantBytes(t, "Key of "+value.Text(x), key(t, x), "")
 		}
 	}
-	for _, id := range noIds() {
-		wantBytes(t, "Key of a vertex without an id", key(t, value.Vertex(id)), "\x01")
-		wantBytes(t, "Key of an edge without an id", key(t, value.Edge(id)), "\x02")
+	for _, x := range append(mayNot(), withFields()...) {
+		wantBytes(t, fmt.Sprint("Key of ", x), key(t, x), "")
 	}
-	more := api.Value{Kind: api.VVertex, N: 1, S: "a", L: many(value.Int(1), 2)}
-	wantBytes(t, "Key of a vertex with other fields", key(t, more), "\x01\x06\x80\x00\x00\x00\x00\x00\x00\x01")
+	for _, kind := range []int{math.MinInt, -1, 0, api.VInt, api.VStr, api.VBool, api.VList, api.VMap, 8, 256 + api.VVertex, 256 + api.VEdge, math.MaxInt} {
+		for _, id := range append(ids(), noIds()...) {
+			wantBytes(t, fmt.Sprint("Key of the kind ", kind), key(t, api.Value{Kind: kind, N: id}), "")
+		}
+	}
+}
+
+// withFields are vertices and edges, by their ids, with a field that they do not have.
+func withFields() []api.Value {
+	var l []api.Value
+	for _, kind := range []int{api.VVertex, api.VEdge} {
+		for _, id := range ids() {
+			l = append(l, api.Value{Kind: kind, N: id, S: "a"}, api.Value{Kind: kind, N: id, S: "\x00"}, api.Value{Kind: kind, N: id, L: many(value.Int(1), 1)},
+				api.Value{Kind: kind, N: id, L: []api.Value{{}}}, api.Value{Kind: kind, N: id, S: "a", L: many(value.Vertex(id), 2)})
+		}
+	}
+	return l
+}
+
+// P11.2: an element's id is from 1 to MaxId: what has the one below or the one above, or any other, has no key.
+func TestKeyAtTheEndsOfIds(t *testing.T) {
+	for _, id := range noIds() {
+		wantBytes(t, fmt.Sprint("Key of a vertex with the id ", id), key(t, value.Vertex(id)), "")
+		wantBytes(t, fmt.Sprint("Key of an edge with the id ", id), key(t, value.Edge(id)), "")
+	}
+	wantBytes(t, "Key of v[1]", key(t, value.Vertex(1)), "\x01\x06\x80\x00\x00\x00\x00\x00\x00\x01")
+	wantBytes(t, "Key of v[MaxId]", key(t, value.Vertex(far)), "\x01\x06\x80\x01\x00\x00\x00\x00\x00\x00")
+	wantBytes(t, "Key of e[1]", key(t, value.Edge(1)), "\x02\x07\x80\x00\x00\x00\x00\x00\x00\x01")
+	wantBytes(t, "Key of e[MaxId]", key(t, value.Edge(far)), "\x02\x07\x80\x01\x00\x00\x00\x00\x00\x00")
+}
+
+// P11.2, R6: an empty list is no field, so an element that has one has its key.
+func TestKeyWithAnEmptyList(t *testing.T) {
+	for _, elem := range []api.Value{value.Vertex(7), value.Edge(7)} {
+		with := elem
+		with.L = []api.Value{}
+		if got := key(t, with); len(got) != 10 || !bytes.Equal(got, key(t, elem)) {
+			t.Errorf("Key of %v with an empty list: %v", elem, got)
+		}
+	}
 }
 
 // P11.2: with what the keys of edges begin, written out.
