@@ -35,14 +35,19 @@ func elements(g api.Graph, kind int) iter.Seq[element] {
 	}
 }
 
-// find is the first element of elem's kind and id, and whether there is one. An element is these two: its other fields are not asked.
+// find is the first element of g that elem is, and whether there is one.
 func find(g api.Graph, elem api.Value) (element, bool) {
 	for x := range elements(g, elem.Kind) {
-		if x.id == elem.N {
+		if isThat(elem, x.id) {
 			return x, true
 		}
 	}
 	return element{}, false
+}
+
+// isThat tells whether elem is, as a value, the element of its kind with that id: one with other fields is no element.
+func isThat(elem api.Value, id int64) bool {
+	return value.Same(elem, api.Value{Kind: elem.Kind, N: id})
 }
 
 // prop is the value of the first property of that name, and whether there is one.

@@ -104,7 +104,7 @@ func TestAskOfAny(t *testing.T) {
 			}
 			wantAsked(t, g, value.Edge(id), i >= 0, wantE.Label, wantE.Props)
 		}
-		for _, elem := range noElems() {
+		for _, elem := range append(noElems(), withFields()...) {
 			wantAsked(t, g, elem, false, "", nil)
 		}
 	}
@@ -349,28 +349,54 @@ func spoilProps(l []api.Prop) {
 	}
 }
 
-// P10.2, P10.3: an element is a kind and an id; what else stands in the value is not asked.
-func TestElementByKindAndId(t *testing.T) {
+// P10.2, P10.3: a value with a field that an element does not have is none, whatever its Kind and id are.
+func TestElementWithOtherFields(t *testing.T) {
 	for _, elem := range []api.Value{
 		{Kind: api.VVertex, N: 1, S: "x"}, {Kind: api.VVertex, N: 1, L: []api.Value{{}}},
 		{Kind: api.VEdge, N: 3, S: "x"}, {Kind: api.VEdge, N: 3, L: []api.Value{value.Int(1)}},
 	} {
-		plain := api.Value{Kind: elem.Kind, N: elem.N}
-		want, _ := Label(sample(), plain)
-		wantAsked(t, sample(), elem, true, want, Props(sample(), plain))
+		wantAsked(t, sample(), elem, false, "", nil)
+		g, e := set(t, sample(), elem, "a", value.Int(1))
+		wantErr(t, "Set", e, api.ErrElem)
+		wantGraph(t, "Set", g, sample())
+		g, is, e := unset(t, sample(), elem, "age")
+		wantErr(t, "Unset", e, api.ErrElem)
+		wantGraph(t, "Unset", g, sample())
+		if is {
+			t.Error("Unset found the property of what is none")
+		}
+		g, e = drop(t, sample(), elem)
+		wantErr(t, "Drop", e, api.ErrElem)
+		wantGraph(t, "Drop", g, sample())
+	}
+}
+
+// P10.2, P10.3, R6: an empty list is no field.
+func TestElementWithAnEmptyList(t *testing.T) {
+	for _, plain := range []api.Value{value.Vertex(1), value.Edge(3)} {
+		elem := plain
+		elem.L = []api.Value{}
+		name, _ := Label(sample(), plain)
+		wantAsked(t, sample(), elem, true, name, Props(sample(), plain))
 		g, e := set(t, sample(), elem, "a", value.Int(1))
 		wantErr(t, "Set", e, api.OK)
-		h, _ := Set(sample(), plain, "a", value.Int(1))
-		wantGraph(t, "Set", g, h)
-		g, is, e := unset(t, h, elem, "a")
-		wantErr(t, "Unset", e, api.OK)
-		wantGraph(t, "Unset", g, sample())
-		g, e = drop(t, sample(), elem)
-		wantErr(t, "Drop", e, api.OK)
-		h, _ = Drop(sample(), plain)
-		wantGraph(t, "Drop", g, h)
-		if !is {
-			t.Error("Unset did not find the property")
-		}
+		wantWithAndWithout(t, g, elem, plain)
 	}
+}
+
+// wantWithAndWithout holds g, in which elem has the property a, against the sample in which plain has.
+func wantWithAndWithout(t *testing.T, g api.Graph, elem, plain api.Value) {
+	t.Helper()
+	want, _ := Set(sample(), plain, "a", value.Int(1))
+	wantGraph(t, "Set", g, want)
+	h, is, e := unset(t, g, elem, "a")
+	wantErr(t, "Unset", e, api.OK)
+	wantGraph(t, "Unset", h, sample())
+	if !is {
+		t.Error("Unset did not find the property")
+	}
+	h, e = drop(t, g, elem)
+	wantErr(t, "Drop", e, api.OK)
+	want, _ = Drop(sample(), plain)
+	wantGraph(t, "Drop", h, want)
 }

@@ -117,13 +117,13 @@ func propsIn(g *api.Graph, elem api.Value) *[]api.Prop {
 	switch elem.Kind {
 	case api.VVertex:
 		for i := range g.V {
-			if g.V[i].Id == elem.N {
+			if isThat(elem, g.V[i].Id) {
 				return &g.V[i].Props
 			}
 		}
 	case api.VEdge:
 		for i := range g.E {
-			if g.E[i].Id == elem.N {
+			if isThat(elem, g.E[i].Id) {
 				return &g.E[i].Props
 			}
 		}

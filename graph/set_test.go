@@ -11,6 +11,9 @@ import (
 
 // propsAt are an element's properties in g, to be changed there.
 func propsAt(g *api.Graph, elem api.Value) *[]api.Prop {
+	if elem.S != "" || len(elem.L) > 0 {
+		return nil
+	}
 	for i := range g.V {
 		if elem.Kind == api.VVertex && g.V[i].Id == elem.N {
 			return &g.V[i].Props
@@ -115,7 +118,7 @@ func TestSetRefuses(t *testing.T) {
 		wantGraph(t, "Set", h, g)
 	}
 	values := append(badValues(), value.Int(1))
-	none := append(noElems(), value.Vertex(3), value.Edge(1), value.Vertex(0), value.Edge(0), value.Vertex(-1), value.Vertex(12), value.Edge(13))
+	none := append(append(noElems(), withFields()...), value.Vertex(3), value.Edge(1), value.Vertex(0), value.Edge(0), value.Vertex(-1), value.Vertex(12), value.Edge(13))
 	for _, x := range values {
 		for _, elem := range none {
 			refused(api.ErrElem, elem, "a", x)

@@ -397,7 +397,19 @@ func elemsFor(g api.Graph) []api.Value {
 	for _, id := range idsIn(g) {
 		l = append(l, value.Vertex(id), value.Edge(id))
 	}
-	return append(l, noElems()...)
+	return append(append(l, noElems()...), withFields()...)
+}
+
+// withFields are values of the kinds and ids of elements of a sample, with a field that an element does not have: they are none.
+func withFields() []api.Value {
+	var l []api.Value
+	for _, elem := range []api.Value{value.Vertex(1), value.Vertex(5), value.Vertex(9), value.Edge(3), value.Edge(5), value.Edge(6)} {
+		withText, withList, withBoth := elem, elem, elem
+		withText.S, withList.L = "a", []api.Value{{}}
+		withBoth.S, withBoth.L = "\x00", []api.Value{value.Int(1), elem}
+		l = append(l, withText, withList, withBoth)
+	}
+	return l
 }
 
 // noElems are values that are no elements of any graph.
