@@ -204,7 +204,7 @@ func takeTurns(t *testing.T, a, b api.Graph, more int) {
 	for pages := range 5 {
 		r := newRig(t, 1500, 1+used+api.Spare+more+pages, 250)
 		for i, g := range []api.Graph{b, a, b, a, b} {
-			if err := save(t, r.s, g); err != api.OK {
+			if err := r.s.Save(g); err != api.OK {
 				t.Fatalf("%d pages, the Save %d: %d, with %d pages free", r.p.Pages(), i, err, r.p.Left())
 			}
 		}

@@ -224,6 +224,20 @@ func TestStagedAheadOfRefusal(t *testing.T) {
 	}
 }
 
+// fillPool stages so many pages that no other one can be.
+func fillPool(r *rig) {
+	r.t.Helper()
+	for r.p.Staged() < r.p.Pool() {
+		_, err := r.p.Alloc()
+		want(r.t, "Alloc", err, api.OK)
+	}
+}
+
+func withLast(g api.Graph, last int64) api.Graph {
+	g.Last = last
+	return g
+}
+
 // P12.2: what was staged ahead of a Save with an error of the pages is forgotten, and the graph is the one that was committed.
 func TestStagedAheadOfErrors(t *testing.T) {
 	for _, c := range []struct {
@@ -235,12 +249,9 @@ func TestStagedAheadOfErrors(t *testing.T) {
 	}{
 		{"the pages", func(r *rig) { r.fill() }, func(r *rig) {}, grown(40), api.ErrFull},
 		{"the pool", func(r *rig) { r.open(30) }, func(r *rig) {}, grown(40), api.ErrPool},
-		{"the pool, full", func(r *rig) { r.open(api.MinPool) }, func(r *rig) {
-			for r.p.Staged() < api.MinPool {
-				_, err := r.p.Alloc()
-				want(t, "Alloc", err, api.OK)
-			}
-		}, api.Graph{Last: 1}, api.ErrPool},
+		{"the pool, full", func(r *rig) { r.open(api.MinPool) }, fillPool, api.Graph{Last: 1}, api.ErrPool},
+		{"the pool, full, with nothing to be put", func(r *rig) { r.open(api.MinPool) }, fillPool, api.Graph{}, api.ErrPool},
+		{"the pool, full, with one thing to be put", func(r *rig) { r.open(api.MinPool) }, fillPool, withLast(sample(), 18), api.ErrPool},
 		{"damage", func(r *rig) { r.settled(8); r.damage(1000, 1, 0) }, func(r *rig) {}, grown(3), api.ErrDamage},
 		{"no tree", func(r *rig) {}, func(r *rig) { want(t, "SetWord", r.p.SetWord(word, 77), api.OK) }, grown(3), api.ErrTree},
 		{"no node", func(r *rig) {}, func(r *rig) { want(t, "Set", r.p.Set(1, []byte("?")), api.OK) }, grown(3), api.ErrTree},
